@@ -114,9 +114,18 @@ func TestErrorNamedFirst(t *testing.T) {
 		if b, e, _ := litmus.Base(c.text); e != c.e || b != "" {
 			t.Errorf("P1: Base(%.80q) = %q, %d, want %d", c.text, b, e, c.e)
 		}
+		if b, e, _ := litmus.Build(c.text); e != c.e || !reflect.DeepEqual(b, litmus.Test{}) {
+			t.Errorf("P1: Build(%.80q) = %+v, %d, want %d", c.text, b, e, c.e)
+		}
 	}
 	if l, e := litmus.All(7, 0); l != nil || e != litmus.ErrRange {
 		t.Errorf("P1: All(7, 0) = %q, %d, want ErrRange", l, e)
+	}
+	if x, e, at := litmus.Parse(strings.Repeat("\n", 4097)); e != litmus.ErrLong || at != 0 || !reflect.DeepEqual(x, litmus.Test{}) {
+		t.Errorf("P1: Parse of 4097 bytes = %+v, %d, %d, want ErrLong", x, e, at)
+	}
+	if l, all, e := litmus.Play(litmus.Test{}, 2, nil); l != nil || all || e != litmus.ErrTest {
+		t.Errorf("P1: Play(Test{}, 2, nil) = %v, %v, %d, want ErrTest", l, all, e)
 	}
 }
 

@@ -56,26 +56,38 @@ func checkEdges(edges []edge) (Errno, int) {
 	if unjoined < len(edges) {
 		return ErrJoin, unjoined
 	}
-	threads := 0
-	cells := 0
-	for _, e := range edges {
-		if e.leavesThread() {
-			threads++
-		}
-		if e.leavesCell() {
-			cells++
-		}
-	}
-	if threads < 2 {
+	if countThreads(edges) < 2 {
 		return ErrThreads, 0
 	}
-	if cells < 2 {
+	if countCells(edges) < 2 {
 		return ErrCells, 0
 	}
 	if mostCellWrites(edges) > maxCellWrites {
 		return ErrWrites, 0
 	}
 	return OK, 0
+}
+
+// countThreads answers how many edges lead to another thread: a cycle has as many threads.
+func countThreads(edges []edge) int {
+	threads := 0
+	for _, e := range edges {
+		if e.leavesThread() {
+			threads++
+		}
+	}
+	return threads
+}
+
+// countCells answers how many edges lead to another cell: a cycle has as many cells.
+func countCells(edges []edge) int {
+	cells := 0
+	for _, e := range edges {
+		if e.leavesCell() {
+			cells++
+		}
+	}
+	return cells
 }
 
 // firstUnjoined answers the number of the first edge that does not join the

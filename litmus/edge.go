@@ -76,6 +76,21 @@ func (e edge) leavesCell() bool {
 	return false
 }
 
+// isFence tells whether the edge asks for a fence.
+func (e edge) isFence() bool {
+	switch e {
+	case fenceRR, fenceRW, fenceWR, fenceWW:
+		return true
+	}
+	return false
+}
+
+// isRf tells whether the edge says which write a read takes its value from.
+func (e edge) isRf() bool { return e == rfe || e == rfi }
+
+// isFr tells whether the edge says which write a read's value is older than.
+func (e edge) isFr() bool { return e == fre || e == fri }
+
 // joins tells whether the edge begins at the kind of event at which the one ahead ends.
 func (e edge) joins(ahead edge) bool {
 	ends := ahead.endsAtWrite()

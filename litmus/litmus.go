@@ -61,19 +61,50 @@ func All(n int, most int) ([]string, Errno) {
 	return list, OK
 }
 
-// The calls below are not built yet: they answer zero values.
-
 // Build makes a cycle's test (P6, P7).
-func Build(cycle string) (Test, Errno, int) { return Test{}, OK, 0 }
+func Build(cycle string) (Test, Errno, int) {
+	edges, errno, place := readCycle(cycle)
+	if errno != OK {
+		return Test{}, errno, place
+	}
+	base := leastRotation(edges)
+	return buildTest(base), OK, 0
+}
 
 // Print writes a test as text (P8).
-func Print(t Test) (string, Errno) { return "", OK }
+func Print(t Test) (string, Errno) {
+	if !isSound(t) {
+		return "", ErrTest
+	}
+	return printTest(t), OK
+}
 
 // Parse reads a test's text (P9).
-func Parse(text string) (Test, Errno, int) { return Test{}, OK, 0 }
+func Parse(text string) (Test, Errno, int) {
+	if len(text) > maxFile {
+		return Test{}, ErrLong, 0
+	}
+	t, isTest, place := parseTest(text)
+	if !isTest {
+		return Test{}, ErrText, place
+	}
+	return t, OK, 0
+}
 
 // Play plays a test on a machine (P10).
-func Play(t Test, model int, script []int) ([]int, bool, Errno) { return nil, false, OK }
+func Play(t Test, model int, script []int) ([]int, bool, Errno) {
+	if !isSound(t) {
+		return nil, false, ErrTest
+	}
+	if model != modelAtOnce && model != modelBuffers {
+		return nil, false, ErrModel
+	}
+	end := playTest(t.Code, model, script)
+	numbers := end.numbers()
+	return numbers, end.meets(t.Want), OK
+}
+
+// The calls below are not built yet: they answer zero values.
 
 // Label tells whether a machine may show a cycle (P11, P12).
 func Label(cycle string, model int) (bool, Errno, int) { return false, OK, 0 }
