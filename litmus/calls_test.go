@@ -117,6 +117,12 @@ func TestErrorNamedFirst(t *testing.T) {
 		if b, e, _ := litmus.Build(c.text); e != c.e || !reflect.DeepEqual(b, litmus.Test{}) {
 			t.Errorf("P1: Build(%.80q) = %+v, %d, want %d", c.text, b, e, c.e)
 		}
+		if yes, e, _ := litmus.Label(c.text, 2); e != c.e || yes { // and ErrModel
+			t.Errorf("P1: Label(%.80q, 2) = %v, %d, want %d", c.text, yes, e, c.e)
+		}
+		if l, e, _ := litmus.Script(c.text); e != c.e || l != nil {
+			t.Errorf("P1: Script(%.80q) = %v, %d, want %d", c.text, l, e, c.e)
+		}
 	}
 	if l, e := litmus.All(7, 0); l != nil || e != litmus.ErrRange {
 		t.Errorf("P1: All(7, 0) = %q, %d, want ErrRange", l, e)

@@ -104,10 +104,38 @@ func Play(t Test, model int, script []int) ([]int, bool, Errno) {
 	return numbers, end.meets(t.Want), OK
 }
 
-// The calls below are not built yet: they answer zero values.
-
 // Label tells whether a machine may show a cycle (P11, P12).
-func Label(cycle string, model int) (bool, Errno, int) { return false, OK, 0 }
+func Label(cycle string, model int) (bool, Errno, int) {
+	edges, errno, place := readCycle(cycle)
+	if errno != OK {
+		return false, errno, place
+	}
+	if model != modelAtOnce && model != modelBuffers {
+		return false, ErrModel, 0
+	}
+	if model == modelAtOnce {
+		// Written at once, each edge leads to a later event: none goes round.
+		return false, OK, 0
+	}
+	base := leastRotation(edges)
+	events := cycleEvents(base)
+	_, shown := happenings(events)
+	return shown, OK, 0
+}
 
 // Script answers picks that show a cycle on the machine with buffers (P13).
-func Script(cycle string) ([]int, Errno, int) { return nil, OK, 0 }
+func Script(cycle string) ([]int, Errno, int) {
+	edges, errno, place := readCycle(cycle)
+	if errno != OK {
+		return nil, errno, place
+	}
+	base := leastRotation(edges)
+	events := cycleEvents(base)
+	order, shown := happenings(events)
+	if !shown {
+		return nil, ErrNone, 0
+	}
+	t := buildTest(base)
+	moves := movesInOrder(events, order)
+	return picksOf(t.Code, moves), OK, 0
+}

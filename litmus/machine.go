@@ -31,10 +31,7 @@ type move struct {
 // playTest answers where the play of a sound test's code ends. It does end:
 // each move makes an instruction or drains a store, and neither comes back.
 func playTest(code [][]Ins, model int, script []int) *machine {
-	m := &machine{model: model}
-	for range code {
-		m.threads = append(m.threads, runner{})
-	}
+	m := newMachine(code, model)
 	moves := m.moves(code)
 	for made := 0; len(moves) > 0; made++ {
 		k := 0
@@ -43,6 +40,15 @@ func playTest(code [][]Ins, model int, script []int) *machine {
 		}
 		m.makeMove(code, moves[k])
 		moves = m.moves(code)
+	}
+	return m
+}
+
+// newMachine answers a machine at the beginning of a play.
+func newMachine(code [][]Ins, model int) *machine {
+	m := &machine{model: model}
+	for range code {
+		m.threads = append(m.threads, runner{})
 	}
 	return m
 }
